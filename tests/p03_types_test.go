@@ -257,35 +257,49 @@ func TestEveryTypeOfFewNodes(t *testing.T) {
 	}
 }
 
-func TestOtherKinds(t *testing.T) {
+// typesOfOtherKinds returns types of none of the four kinds, and such types inside others.
+func typesOfOtherKinds() []impl.Type {
 	i := intType()
+	var types []impl.Type
 	for _, kind := range []int{0, 5, 6, 7, -1, -2, -3, -4, math.MaxInt64, math.MinInt64, math.MinInt64 + 1, 1 << 32, 1<<32 + 1, 257, 260} {
 		for _, args := range [][]impl.Type{nil, {i}, {i, i}, {i, i, i}, {codeType(i)}, {codeType(i), codeType(i)}} {
-			for _, x := range around(typeOf(kind, args...)) {
-				if impl.IsValidType(x) || impl.IsPlainType(x) || impl.IsBase(x) {
-					t.Errorf("%s is valid, plain or base", textOfType(x))
+			types = append(types, around(typeOf(kind, args...))...)
+		}
+	}
+	return types
+}
+
+func TestOtherKinds(t *testing.T) {
+	for _, x := range typesOfOtherKinds() {
+		if impl.IsValidType(x) || impl.IsPlainType(x) || impl.IsBase(x) {
+			t.Errorf("%s is valid, plain or base", textOfType(x))
+		}
+		expectType(t, x)
+	}
+}
+
+// forNumbersOfArgs hands over types of the four kinds with proper and with other numbers of Args, and such types inside others.
+func forNumbersOfArgs(see func(x impl.Type, proper bool)) {
+	proper := map[int]int{impl.TyInt: 0, impl.TyBool: 0, impl.TyFun: 2, impl.TyCode: 1}
+	for kind := 1; kind <= 4; kind++ {
+		for count := range 5 {
+			for _, part := range []impl.Type{intType(), boolType(), codeType(intType()), funType(intType(), intType())} {
+				inner := typeOf(kind, slices.Repeat([]impl.Type{part}, count)...)
+				for _, x := range append(around(inner), leaning("rlcrl", inner), leaning("ccccc", inner)) {
+					see(x, count == proper[kind])
 				}
-				expectType(t, x)
 			}
 		}
 	}
 }
 
 func TestNumbersOfArgs(t *testing.T) {
-	proper := map[int]int{impl.TyInt: 0, impl.TyBool: 0, impl.TyFun: 2, impl.TyCode: 1}
-	for kind := 1; kind <= 4; kind++ {
-		for count := range 5 {
-			for _, part := range []impl.Type{intType(), boolType(), codeType(intType()), funType(intType(), intType())} {
-				inner := typeOf(kind, slices.Repeat([]impl.Type{part}, count)...)
-				for _, x := range around(inner) {
-					if got := impl.IsValidType(x); got != (count == proper[kind]) {
-						t.Errorf("IsValidType(%s) = %v", textOfType(x), got)
-					}
-					expectType(t, x)
-				}
-			}
+	forNumbersOfArgs(func(x impl.Type, proper bool) {
+		if got := impl.IsValidType(x); got != proper {
+			t.Errorf("IsValidType(%s) = %v", textOfType(x), got)
 		}
-	}
+		expectType(t, x)
+	})
 }
 
 // leaning returns a type of the given depth whose functions, from the top, are nested at the sides named by sides ('l', 'r' or 'c' for code).
@@ -304,13 +318,16 @@ func leaning(sides string, leaf impl.Type) impl.Type {
 	return t
 }
 
-func TestLimitOfSize(t *testing.T) {
+type sizedType struct {
+	of    impl.Type
+	size  int
+	plain bool
+}
+
+// typesNearLimitOfSize returns types that are not too deep, with the numbers of their nodes.
+func typesNearLimitOfSize() []sizedType {
 	of13 := funType(fullType(3), leaning("rr", boolType()))
-	cases := []struct {
-		of    impl.Type
-		size  int
-		plain bool
-	}{
+	return []sizedType{
 		{funType(fullType(4), of13), 29, true},
 		{codeType(funType(fullType(4), of13)), 30, false},
 		{funType(fullType(4), codeType(of13)), 30, false},
@@ -326,7 +343,10 @@ func TestLimitOfSize(t *testing.T) {
 		{fullType(7), 127, true},
 		{fullType(8), 255, true},
 	}
-	for _, c := range cases {
+}
+
+func TestLimitOfSize(t *testing.T) {
+	for _, c := range typesNearLimitOfSize() {
 		valid := c.size <= largestType
 		if impl.SizeOfType(c.of) != c.size || impl.DepthOfType(c.of) > deepestType {
 			t.Fatalf("%s has %d nodes and a depth of %d", textOfType(c.of), impl.SizeOfType(c.of), impl.DepthOfType(c.of))
@@ -341,13 +361,20 @@ func TestLimitOfSize(t *testing.T) {
 	}
 }
 
+// leaningTypes returns every type of the given depth that leaning makes.
+func leaningTypes(depth int) []impl.Type {
+	var types []impl.Type
+	wordsOver("lrc", depth-1, func(sides string) {
+		if len(sides) == depth-1 {
+			types = append(types, leaning(sides, intType()))
+		}
+	})
+	return types
+}
+
 func TestLimitOfDepth(t *testing.T) {
 	for _, depth := range []int{7, 8, 9, 10} {
-		wordsOver("lrc", depth-1, func(sides string) {
-			if len(sides) != depth-1 {
-				return
-			}
-			x := leaning(sides, intType())
+		for _, x := range leaningTypes(depth) {
 			if impl.DepthOfType(x) != depth {
 				t.Fatalf("%s has a depth of %d, want %d", textOfType(x), impl.DepthOfType(x), depth)
 			}
@@ -355,7 +382,7 @@ func TestLimitOfDepth(t *testing.T) {
 				t.Errorf("IsValidType(%s) = %v", textOfType(x), got)
 			}
 			expectType(t, x)
-		})
+		}
 	}
 }
 
