@@ -361,22 +361,38 @@ func fieldFaults(e impl.Term, has string) []impl.Term {
 	return faults
 }
 
-func TestFieldsThatAKindDoesNotHave(t *testing.T) {
+// termsWithOtherFields returns terms of each kind with one field that this kind does not have.
+func termsWithOtherFields() []impl.Term {
 	fields := []string{"Name", "Number", "Number", "Name", "", "Name Type", "", "Name", "Name Other Type Res", "", "", "", ""}
+	var faults []impl.Term
 	for k, e := range properTerms() {
-		for _, fault := range fieldFaults(e, fields[k]) {
-			expectInside(t, fault, false)
-		}
+		faults = append(faults, fieldFaults(e, fields[k])...)
+	}
+	return faults
+}
+
+func TestFieldsThatAKindDoesNotHave(t *testing.T) {
+	for _, fault := range termsWithOtherFields() {
+		expectInside(t, fault, false)
 	}
 }
 
-func TestOtherKindsOfTerms(t *testing.T) {
+// termsOfOtherKinds returns what would be terms if their kinds were others.
+func termsOfOtherKinds() []impl.Term {
+	var faults []impl.Term
 	for _, e := range append(properTerms(), impl.Term{}, operation("!", variable("x"))) {
 		for _, kind := range []int{0, 14, 15, 26, -1, -e.Kind, -14, 128, 256 + e.Kind, 1<<32 + e.Kind, math.MaxInt64, math.MinInt64} {
 			other := e
 			other.Kind = kind
-			expectInside(t, other, false)
+			faults = append(faults, other)
 		}
+	}
+	return faults
+}
+
+func TestOtherKindsOfTerms(t *testing.T) {
+	for _, fault := range termsOfOtherKinds() {
+		expectInside(t, fault, false)
 	}
 }
 
@@ -411,6 +427,11 @@ func TestNumbersAndBooleans(t *testing.T) {
 	}
 }
 
+// otherNames returns texts that are no names.
+func otherNames() []string {
+	return []string{"", "if", "let", "lift", "rec", "run", "abcde", "lifts", "1", "1a", "X", "xY", "x_", "_", " x", "x ", "x y", "x.", "+", "-", "!", "#t", "~x", "\x00", "x\x00", "\xff", "\u00e9", "\u0430", "\u0661", "x\u0661"}
+}
+
 func TestNamesInTerms(t *testing.T) {
 	i, x := intType(), variable("x")
 	withName := func(s string, valid bool) {
@@ -421,7 +442,7 @@ func TestNamesInTerms(t *testing.T) {
 	for _, s := range []string{"a", "z", "x1", "a000", "abcd", "z999", "fi", "iff", "i", "lets", "le", "runs", "lif", "recs", "v1", "b1"} {
 		withName(s, true)
 	}
-	for _, s := range []string{"", "if", "let", "lift", "rec", "run", "abcde", "lifts", "1", "1a", "X", "xY", "x_", "_", " x", "x ", "x y", "x.", "+", "-", "!", "#t", "~x", "\x00", "x\x00", "\xff", "\u00e9", "\u0430", "\u0661", "x\u0661"} {
+	for _, s := range otherNames() {
 		withName(s, false)
 	}
 }
@@ -525,14 +546,33 @@ func termOfSize(size int) impl.Term {
 	return operation("+", termOfSize(left), termOfSize(size-1-left))
 }
 
+// termsOfSize returns terms of so many nodes that are not deep.
+func termsOfSize(size int) []impl.Term {
+	terms := []impl.Term{termOfSize(size)}
+	for _, context := range contexts() {
+		around := sizeByParts(context(number(1))) - 1
+		terms = append(terms, context(termOfSize(size-around)), nested(context, 5, termOfSize(size-5*around)))
+	}
+	return terms
+}
+
+// termsOfDepth returns terms of this depth that are not large if it is not.
+func termsOfDepth(depth int) []impl.Term {
+	var terms []impl.Term
+	all := contexts()
+	for k, context := range all {
+		mixed := variable("x")
+		for step := range depth - 1 {
+			mixed = all[(k+step)%len(all)](mixed)
+		}
+		terms = append(terms, mixed, nested(context, depth-1, number(0)))
+	}
+	return terms
+}
+
 func TestLimitOfSizeOfTerms(t *testing.T) {
 	for _, size := range []int{79, 80, 81, 82, 160, 1000} {
-		wholes := []impl.Term{termOfSize(size)}
-		for _, context := range contexts() {
-			around := sizeByParts(context(number(1))) - 1
-			wholes = append(wholes, context(termOfSize(size-around)), nested(context, 5, termOfSize(size-5*around)))
-		}
-		for _, e := range wholes {
+		for _, e := range termsOfSize(size) {
 			if impl.SizeOf(e) != size || impl.DepthOf(e) > deepestTerm {
 				t.Fatalf("a term has %d nodes and a depth of %d, want %d nodes", impl.SizeOf(e), impl.DepthOf(e), size)
 			}
@@ -545,22 +585,15 @@ func TestLimitOfSizeOfTerms(t *testing.T) {
 }
 
 func TestLimitOfDepthOfTerms(t *testing.T) {
-	all := contexts()
 	for _, depth := range []int{19, 20, 21, 22, 100} {
-		for k, context := range all {
-			mixed := variable("x")
-			for step := range depth - 1 {
-				mixed = all[(k+step)%len(all)](mixed)
+		for _, e := range termsOfDepth(depth) {
+			if impl.DepthOf(e) != depth || depth <= 22 && impl.SizeOf(e) > largestTerm {
+				t.Fatalf("a term has %d nodes and a depth of %d, want a depth of %d", impl.SizeOf(e), impl.DepthOf(e), depth)
 			}
-			for _, e := range []impl.Term{mixed, nested(context, depth-1, number(0))} {
-				if impl.DepthOf(e) != depth || depth <= 22 && impl.SizeOf(e) > largestTerm {
-					t.Fatalf("a term has %d nodes and a depth of %d, want a depth of %d", impl.SizeOf(e), impl.DepthOf(e), depth)
-				}
-				if got := impl.IsValidTerm(e); got != (depth <= 20) || !impl.IsTerm(e) {
-					t.Errorf("IsValidTerm of a term of depth %d = %v", depth, got)
-				}
-				expectTerm(t, e, true)
+			if got := impl.IsValidTerm(e); got != (depth <= 20) || !impl.IsTerm(e) {
+				t.Errorf("IsValidTerm of a term of depth %d = %v", depth, got)
 			}
+			expectTerm(t, e, true)
 		}
 	}
 }
@@ -774,12 +807,9 @@ func TestTermsNestedDeeply(t *testing.T) {
 
 func TestTermsWithDeepTypes(t *testing.T) {
 	deep, same, other := codesOf(200000, intType()), codesOf(200000, intType()), codesOf(200000, boolType())
-	withType := func(of impl.Type) []impl.Term {
-		return []impl.Term{function("x", of, number(1)), recursive("p", "n", of, intType(), number(1)), recursive("p", "n", intType(), of, number(1)), {Kind: impl.TmInt, Type: of}, {Kind: impl.TmInt, Res: of}}
-	}
 	withLittleStack(func() {
-		equals, others := withType(same), withType(other)
-		for k, e := range withType(deep) {
+		equals, others := termsWithType(same), termsWithType(other)
+		for k, e := range termsWithType(deep) {
 			if impl.IsTerm(e) || impl.IsValidTerm(e) || impl.SizeOf(e) != 1+len(e.Args) || impl.DepthOf(e) != 1+len(e.Args) {
 				t.Errorf("a term of kind %d with a deep type", e.Kind)
 			}
@@ -800,16 +830,29 @@ func TestTermsWithManyArgs(t *testing.T) {
 	}
 }
 
-// TestHugeTermsAreRejectedAtOnce has terms with more nodes than can be counted, that contain themselves, or with such types.
-func TestHugeTermsAreRejectedAtOnce(t *testing.T) {
+// hugeTerms returns terms with more nodes than can be counted, or that contain themselves.
+func hugeTerms() []impl.Term {
 	endless, sums := quoteTerm(number(1)), operation("+", number(1), number(1))
 	endless.Args[0], sums.Args[0], sums.Args[1] = endless, sums, sums
-	huge, hugeType := number(1), intType()
+	huge := number(1)
 	for range 200 {
-		huge, hugeType = application(huge, huge), funType(hugeType, hugeType)
+		huge = application(huge, huge)
 	}
-	typed := []impl.Term{function("x", hugeType, number(1)), recursive("p", "n", intType(), hugeType, number(1)), {Kind: impl.TmInt, Type: hugeType}, {Kind: impl.TmInt, Res: hugeType}}
-	for _, e := range slices.Concat(typed, []impl.Term{endless, sums, huge, quoteTerm(huge), operation("+", number(1), endless)}) {
+	return []impl.Term{endless, sums, huge, quoteTerm(huge), operation("+", number(1), endless)}
+}
+
+// termsWithType returns values of a few nodes with the type of.
+func termsWithType(of impl.Type) []impl.Term {
+	return []impl.Term{function("x", of, number(1)), recursive("p", "n", of, intType(), number(1)), recursive("p", "n", intType(), of, number(1)), {Kind: impl.TmInt, Type: of}, {Kind: impl.TmInt, Res: of}}
+}
+
+func TestHugeTermsAreRejectedAtOnce(t *testing.T) {
+	hugeType := intType()
+	for range 200 {
+		hugeType = funType(hugeType, hugeType)
+	}
+	typed := termsWithType(hugeType)
+	for _, e := range slices.Concat(typed, hugeTerms()) {
 		if impl.IsValidTerm(e) {
 			t.Errorf("a huge term of kind %d is valid", e.Kind)
 		}
