@@ -23,15 +23,20 @@ func writtenType(t impl.Type) string {
 	return "<" + writtenType(t.Args[0]) + ">"
 }
 
+var (
+	baseTypes   = strings.NewReplacer("I", "T", "B", "T")
+	typesOfType = strings.NewReplacer("(T>T)", "T", "<T>", "T")
+)
+
 // isWrittenType reports whether s is the representation of a type, whatever its size and depth.
 // It puts "T" in the place of one part after the other, the innermost ones first.
 func isWrittenType(s string) bool {
 	if strings.Contains(s, "T") {
 		return false
 	}
-	s = strings.NewReplacer("I", "T", "B", "T").Replace(s)
+	s = baseTypes.Replace(s)
 	for {
-		shorter := strings.NewReplacer("(T>T)", "T", "<T>", "T").Replace(s)
+		shorter := typesOfType.Replace(s)
 		if shorter == s {
 			return s == "T"
 		}

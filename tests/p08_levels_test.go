@@ -507,7 +507,7 @@ func TestLevelsOfWideTerms(t *testing.T) {
 	expectNamedLeveling(t, "wide term without splices", nested(doubled, times, function("x", intType(), variable("x"))), leveling{"012", "012", 0, 0, true})
 }
 
-// TestLevelsOfHugeTerms has values that contain themselves, or whose types do: a level or a fault ends the search.
+// TestLevelsOfHugeTerms has values that contain themselves, or whose types do: a level, a fault or a splice ends the search.
 func TestLevelsOfHugeTerms(t *testing.T) {
 	hugeType := intType()
 	for range 200 {
@@ -530,6 +530,12 @@ func TestLevelsOfHugeTerms(t *testing.T) {
 		}
 		if impl.IsPlain(e) || impl.HighestLevel(e) != -1 {
 			t.Error("IsPlain or HighestLevel of a term that contains itself")
+		}
+	}
+	// A splice whose part has level 0 ends the search, too, whatever stands behind it.
+	for _, e := range hugeTerms() {
+		if impl.IsGenerated(application(spliceTerm(number(1)), e), 1) || impl.IsResult(quoteTerm(application(spliceTerm(number(1)), e))) {
+			t.Error("a term with a splice before a huge term is generated")
 		}
 	}
 }
